@@ -1,18 +1,21 @@
 // Package order: finite orders: see doc/01-order.md.
 package order
 
-import "hasse/api"
+import (
+	"hasse/api"
+	"hasse/sets"
+)
 
 // Check tells what is wrong with an order.
 func Check(o api.Order) api.Errno {
-	if !isCount(o.N) {
+	if !sets.IsCount(o.N) {
 		return api.ErrMany
 	}
 	if len(o.Below) != o.N {
 		return api.ErrForm
 	}
 	for _, set := range o.Below {
-		if !isSet(set, o.N) {
+		if !sets.Within(set, o.N) {
 			return api.ErrRange
 		}
 	}
@@ -24,7 +27,7 @@ func Check(o api.Order) api.Errno {
 
 // Make an order of pairs.
 func Make(n int, pairs [][2]int) (api.Order, api.Errno) {
-	if !isCount(n) {
+	if !sets.IsCount(n) {
 		return api.Order{}, api.ErrMany
 	}
 	below := make([]int, n)
@@ -51,7 +54,7 @@ func Covers(o api.Order) ([][2]int, api.Errno) {
 	var covers [][2]int
 	for lower := range o.N {
 		for upper := range o.N {
-			if has(o.Below[upper], lower) && above[lower]&o.Below[upper] == 0 {
+			if sets.Has(o.Below[upper], lower) && above[lower]&o.Below[upper] == 0 {
 				covers = append(covers, [2]int{lower, upper})
 			}
 		}
@@ -80,14 +83,14 @@ func Part(o api.Order, set int) (api.Order, api.Errno) {
 	if err := Check(o); err != api.OK {
 		return api.Order{}, err
 	}
-	if !isSet(set, o.N) {
+	if !sets.Within(set, o.N) {
 		return api.Order{}, api.ErrRange
 	}
-	points := members(set)
+	points := sets.Members(set)
 	below := make([]int, len(points))
 	for i, upper := range points {
 		for k, lower := range points {
-			if has(o.Below[upper], lower) {
+			if sets.Has(o.Below[upper], lower) {
 				below[i] |= 1 << k
 			}
 		}
@@ -108,7 +111,7 @@ func Over(a, b api.Order) (api.Order, api.Errno) {
 	if err := checkAll(a, b); err != api.OK {
 		return api.Order{}, err
 	}
-	return join(a, b, all(a.N))
+	return join(a, b, sets.All(a.N))
 }
 
 // Times: pairs of points.
@@ -117,7 +120,7 @@ func Times(a, b api.Order) (api.Order, api.Errno) {
 		return api.Order{}, err
 	}
 	n := a.N * b.N
-	if !isCount(n) {
+	if !sets.IsCount(n) {
 		return api.Order{}, api.ErrMany
 	}
 	below := make([]int, 0, n)
@@ -136,17 +139,20 @@ func Ideals(o api.Order) ([]int, api.Errno) {
 		return nil, err
 	}
 	var ideals []int
-sets:
+every:
 	for set := range 1 << o.N {
 		for point, lower := range o.Below {
-			if has(set, point) && lower&^set != 0 {
-				continue sets
+			if sets.Has(set, point) && lower&^set != 0 {
+				continue every
 			}
 		}
 		ideals = append(ideals, set)
 	}
 	return ideals, api.OK
 }
+
+// isPoint tells whether a number is one of n points.
+func isPoint(point, n int) bool { return point >= 0 && point < n }
 
 // checkAll looks at orders from the first on, so that of several wrong ones the first is told of.
 func checkAll(orders ...api.Order) api.Errno {
@@ -161,11 +167,11 @@ func checkAll(orders ...api.Order) api.Errno {
 // isOrdered tells whether sets of points are those below each point of an order.
 func isOrdered(below []int) bool {
 	for upper, set := range below {
-		if has(set, upper) {
+		if sets.Has(set, upper) {
 			return false
 		}
 		for point, lower := range below {
-			if has(set, point) && lower&^set != 0 {
+			if sets.Has(set, point) && lower&^set != 0 {
 				return false
 			}
 		}
@@ -177,7 +183,7 @@ func isOrdered(below []int) bool {
 func reach(below []int) {
 	for through, lower := range below {
 		for upper, set := range below {
-			if has(set, through) {
+			if sets.Has(set, through) {
 				below[upper] |= lower
 			}
 		}
@@ -189,7 +195,7 @@ func turn(below []int) []int {
 	above := make([]int, len(below))
 	for upper, set := range below {
 		for lower := range above {
-			if has(set, lower) {
+			if sets.Has(set, lower) {
 				above[lower] |= 1 << upper
 			}
 		}
@@ -198,9 +204,9 @@ func turn(below []int) []int {
 }
 
 // bare is the set of points whose own set is empty.
-func bare(sets []int) int {
+func bare(own []int) int {
 	points := 0
-	for point, set := range sets {
+	for point, set := range own {
 		if set == 0 {
 			points |= 1 << point
 		}
@@ -211,7 +217,7 @@ func bare(sets []int) int {
 // join puts b's points behind a's, each of them above the points of a that are in under.
 func join(a, b api.Order, under int) (api.Order, api.Errno) {
 	n := a.N + b.N
-	if !isCount(n) {
+	if !sets.IsCount(n) {
 		return api.Order{}, api.ErrMany
 	}
 	below := make([]int, 0, n)
@@ -226,7 +232,7 @@ func join(a, b api.Order, under int) (api.Order, api.Errno) {
 func pairsUpTo(a, b api.Order, x, y int) int {
 	row := b.Below[y] | 1<<y
 	pairs := 0
-	for _, point := range members(a.Below[x] | 1<<x) {
+	for _, point := range sets.Members(a.Below[x] | 1<<x) {
 		pairs |= row << (point * b.N)
 	}
 	return pairs

@@ -7,10 +7,11 @@ import (
 	"testing"
 
 	"hasse/api"
+	"hasse/samples"
 )
 
 // below tells an order by its sets.
-func below(sets ...int) api.Order { return api.Order{N: len(sets), Below: sets} }
+func below(sets ...int) api.Order { return samples.Below(sets...) }
 
 // made of pairs that are known to be right.
 func made(t testing.TB, n int, pairs ...[2]int) api.Order {
@@ -25,80 +26,10 @@ func made(t testing.TB, n int, pairs ...[2]int) api.Order {
 // same holds orders against each other, an empty list being like none.
 func same(a, b api.Order) bool { return a.N == b.N && slices.Equal(a.Below, b.Below) }
 
-// everyOrder of n points, found without the package: all lists of sets, of which those that are orders by the words of A1 are kept.
-func everyOrder(n int) []api.Order {
-	var orders []api.Order
-	for code := range 1 << (n * n) {
-		sets := make([]int, n)
-		for i := range sets {
-			sets[i] = code >> (i * n) & (1<<n - 1)
-		}
-		if plainOrder(sets) {
-			orders = append(orders, below(sets...))
-		}
-	}
-	return orders
-}
-
-func plainOrder(sets []int) bool {
-	is := func(a, b int) bool { return sets[b]>>a&1 == 1 }
-	for a := range sets {
-		for b := range sets {
-			for c := range sets {
-				if is(a, a) || is(a, b) && is(b, c) && !is(a, c) {
-					return false
-				}
-			}
-		}
-	}
-	return true
-}
-
-func smallOrders() []api.Order {
-	var orders []api.Order
-	for n := range 5 {
-		orders = append(orders, everyOrder(n)...)
-	}
-	return orders
-}
-
-// wrong orders, and what Check says of each.
-type wrongOrder struct {
-	o    api.Order
-	want api.Errno
-}
-
-func wrongOrders() []wrongOrder {
-	return []wrongOrder{
-		{api.Order{N: -1}, api.ErrMany},
-		{api.Order{N: 11, Below: make([]int, 11)}, api.ErrMany},
-		{api.Order{N: math.MaxInt}, api.ErrMany},
-		{api.Order{N: math.MinInt}, api.ErrMany},
-		{api.Order{N: 11, Below: []int{-1}}, api.ErrMany},
-		{api.Order{N: 0, Below: []int{0}}, api.ErrForm},
-		{api.Order{N: 2, Below: []int{0}}, api.ErrForm},
-		{api.Order{N: 2, Below: []int{0, 0, 0}}, api.ErrForm},
-		{api.Order{N: 2, Below: nil}, api.ErrForm},
-		{api.Order{N: 2, Below: []int{-1}}, api.ErrForm},
-		{below(0, 4), api.ErrRange},
-		{below(0, -1), api.ErrRange},
-		{below(math.MinInt, 0), api.ErrRange},
-		{below(math.MaxInt, 0), api.ErrRange},
-		{below(1, 4), api.ErrRange},
-		{below(0, 0, 0, 0, 0, 0, 0, 0, 0, 1<<10), api.ErrRange},
-		{below(1), api.ErrState},
-		{below(0, 2), api.ErrState},
-		{below(2, 1), api.ErrState},
-		{below(0, 1, 2), api.ErrState},
-		{below(4, 0, 2), api.ErrState},
-		{below(0, 0, 0, 0, 0, 0, 0, 0, 0, 1<<9), api.ErrState},
-	}
-}
-
 func TestA1Check(t *testing.T) {
-	for _, w := range wrongOrders() {
-		if got := Check(w.o); got != w.want {
-			t.Errorf("Check(%v) = %d, want %d", w.o, got, w.want)
+	for _, w := range samples.WrongOrders() {
+		if got := Check(w.Order); got != w.Err {
+			t.Errorf("Check(%v) = %d, want %d", w.Order, got, w.Err)
 		}
 	}
 	for _, o := range []api.Order{{}, {Below: []int{}}, below(0), below(0, 1, 3), below(0, 0, 0, 0, 0, 0, 0, 0, 0, 511)} {
@@ -118,7 +49,7 @@ func TestA1CheckOfAllSmallLists(t *testing.T) {
 				sets[i] = code >> (i * n) & (1<<n - 1)
 			}
 			got := Check(below(sets...))
-			if (got == api.OK) != plainOrder(sets) || got != api.OK && got != api.ErrState {
+			if (got == api.OK) != samples.IsOrder(sets) || got != api.OK && got != api.ErrState {
 				t.Fatalf("Check(%v) = %d", sets, got)
 			}
 			if got == api.OK {
@@ -140,32 +71,32 @@ func TestA1CheckIsToldFirst(t *testing.T) {
 	}
 	good := below(0, 1)
 	full := below(make([]int, 10)...)
-	for _, w := range wrongOrders() {
-		if l, err := Covers(w.o); err != w.want || l != nil {
-			t.Errorf("Covers(%v) = %v, error %d", w.o, l, err)
+	for _, w := range samples.WrongOrders() {
+		if l, err := Covers(w.Order); err != w.Err || l != nil {
+			t.Errorf("Covers(%v) = %v, error %d", w.Order, l, err)
 		}
-		if a, b, err := Ends(w.o); err != w.want || a != 0 || b != 0 {
-			t.Errorf("Ends(%v) = %d, %d, error %d", w.o, a, b, err)
+		if a, b, err := Ends(w.Order); err != w.Err || a != 0 || b != 0 {
+			t.Errorf("Ends(%v) = %d, %d, error %d", w.Order, a, b, err)
 		}
-		if l, err := Ideals(w.o); err != w.want || l != nil {
-			t.Errorf("Ideals(%v) = %v, error %d", w.o, l, err)
+		if l, err := Ideals(w.Order); err != w.Err || l != nil {
+			t.Errorf("Ideals(%v) = %v, error %d", w.Order, l, err)
 		}
-		got, err := Dual(w.o)
-		zero("Dual", w.o, got, err, w.want)
+		got, err := Dual(w.Order)
+		zero("Dual", w.Order, got, err, w.Err)
 		for _, set := range []int{0, 1, -1, 1 << 20} {
-			got, err = Part(w.o, set)
-			zero("Part", w.o, got, err, w.want)
+			got, err = Part(w.Order, set)
+			zero("Part", w.Order, got, err, w.Err)
 		}
 		for name, call := range twoOrders() {
-			got, err = call(w.o, good)
-			zero(name, w.o, got, err, w.want)
-			got, err = call(good, w.o)
-			zero(name, w.o, got, err, w.want)
-			got, err = call(full, w.o)
-			zero(name, w.o, got, err, w.want)
-			for _, v := range wrongOrders() {
-				got, err = call(w.o, v.o)
-				zero(name, w.o, got, err, w.want)
+			got, err = call(w.Order, good)
+			zero(name, w.Order, got, err, w.Err)
+			got, err = call(good, w.Order)
+			zero(name, w.Order, got, err, w.Err)
+			got, err = call(full, w.Order)
+			zero(name, w.Order, got, err, w.Err)
+			for _, v := range samples.WrongOrders() {
+				got, err = call(w.Order, v.Order)
+				zero(name, w.Order, got, err, w.Err)
 			}
 		}
 	}
@@ -314,7 +245,7 @@ func TestA2Covers(t *testing.T) {
 }
 
 func TestA2CoversOfAllSmallOrders(t *testing.T) {
-	for _, o := range smallOrders() {
+	for _, o := range samples.SmallOrders() {
 		is := func(a, b int) bool { return o.Below[b]>>a&1 == 1 }
 		var want [][2]int
 		for a := range o.N {
@@ -354,7 +285,7 @@ func TestA2Ends(t *testing.T) {
 }
 
 func TestA3Dual(t *testing.T) {
-	for _, o := range smallOrders() {
+	for _, o := range samples.SmallOrders() {
 		d, err := Dual(o)
 		if err != api.OK || d.N != o.N || Check(d) != api.OK {
 			t.Fatalf("Dual(%v) = %v, error %d", o, d, err)
@@ -401,7 +332,7 @@ func TestA3Part(t *testing.T) {
 func TestA3TwoOrders(t *testing.T) {
 	var orders []api.Order
 	for n := range 4 {
-		orders = append(orders, everyOrder(n)...)
+		orders = append(orders, samples.Orders(n)...)
 	}
 	for _, a := range orders {
 		for _, b := range orders {
@@ -487,7 +418,7 @@ func TestA4Ideals(t *testing.T) {
 }
 
 func TestA4IdealsOfAllSmallOrders(t *testing.T) {
-	for _, o := range smallOrders() {
+	for _, o := range samples.SmallOrders() {
 		var want []int
 		for set := range 1 << o.N {
 			ideal := true
@@ -509,7 +440,7 @@ func TestA4IdealsOfAllSmallOrders(t *testing.T) {
 }
 
 func TestA5CoversMakeTheOrder(t *testing.T) {
-	for _, o := range smallOrders() {
+	for _, o := range samples.SmallOrders() {
 		covers, _ := Covers(o)
 		if got := made(t, o.N, covers...); !same(got, o) {
 			t.Fatalf("the covers %v make %v, not %v", covers, got, o)
@@ -524,7 +455,7 @@ func TestA5CoversMakeTheOrder(t *testing.T) {
 }
 
 func TestA5DualOfDual(t *testing.T) {
-	for _, o := range smallOrders() {
+	for _, o := range samples.SmallOrders() {
 		d, _ := Dual(o)
 		if got, err := Dual(d); err != api.OK || !same(got, o) {
 			t.Fatalf("the dual of the dual of %v is %v, error %d", o, got, err)
@@ -542,7 +473,7 @@ func TestA5DualOfDual(t *testing.T) {
 }
 
 func TestA5IdealsSideBySide(t *testing.T) {
-	orders := append(everyOrder(2), everyOrder(3)...)
+	orders := append(samples.Orders(2), samples.Orders(3)...)
 	for _, a := range orders {
 		for _, b := range orders {
 			ofA, _ := Ideals(a)
@@ -563,8 +494,8 @@ func TestA5IdealsSideBySide(t *testing.T) {
 
 // roomy is an order whose list has spare room, with marks in it that must stay.
 func roomy(sets ...int) (api.Order, []int) {
-	room := append(slices.Clone(sets), 77, 78, 79, 80, 81, 82, 83, 84, 85, 86)
-	return api.Order{N: len(sets), Below: room[:len(sets)]}, room
+	list, room := samples.Roomy(sets...)
+	return below(list...), room
 }
 
 func TestP2WhatIsHandedInIsOnlyRead(t *testing.T) {
@@ -616,7 +547,7 @@ func TestP2NothingIsKept(t *testing.T) {
 }
 
 func TestP3TheSameEachTime(t *testing.T) {
-	for _, o := range everyOrder(3) {
+	for _, o := range samples.Orders(3) {
 		for range 2 {
 			l, _ := Covers(o)
 			s, _ := Ideals(o)

@@ -9,28 +9,12 @@ import (
 
 	"hasse/api"
 	"hasse/order"
+	"hasse/samples"
 )
 
 func below(sets ...int) api.Order { return api.Order{N: len(sets), Below: sets} }
 
 func same(a, b api.Order) bool { return a.N == b.N && slices.Equal(a.Below, b.Below) }
-
-// smallOrders: all of up to four points.
-func smallOrders() []api.Order {
-	var orders []api.Order
-	for n := range 5 {
-		for code := range 1 << (n * n) {
-			sets := make([]int, n)
-			for i := range sets {
-				sets[i] = code >> (i * n) & (1<<n - 1)
-			}
-			if o := below(sets...); order.Check(o) == api.OK {
-				orders = append(orders, o)
-			}
-		}
-	}
-	return orders
-}
 
 func TestB1Print(t *testing.T) {
 	for _, c := range []struct {
@@ -256,7 +240,7 @@ func TestB2AllShortTexts(t *testing.T) {
 }
 
 func TestB3WhatIsPrintedIsRead(t *testing.T) {
-	for _, o := range smallOrders() {
+	for _, o := range samples.SmallOrders() {
 		text, err := Print(o)
 		if err != api.OK {
 			t.Fatalf("Print(%v): error %d", o, err)

@@ -1,0 +1,35 @@
+// Package sets: sets of points as numbers, whose bit i is 1 if point i is in it. All layers reckon with them alike.
+package sets
+
+import (
+	"math/bits"
+
+	"hasse/api"
+)
+
+// IsCount tells whether there may be n points.
+func IsCount(n int) bool { return n >= 0 && n <= api.MaxPoints }
+
+// All is the set of n points.
+func All(n int) int { return 1<<n - 1 }
+
+// Within tells whether all that a number has is among n points; a number below 0 has what is no point.
+func Within(set, n int) bool { return set >= 0 && set <= All(n) }
+
+// Has tells whether a point is in a set.
+func Has(set, point int) bool { return set>>point&1 == 1 }
+
+// Size is how many points a set has.
+func Size(set int) int { return bits.OnesCount(uint(set)) }
+
+// First is the least point of a set that has one.
+func First(set int) int { return bits.TrailingZeros(uint(set)) }
+
+// Members of a set, rising.
+func Members(set int) []int {
+	points := make([]int, 0, Size(set))
+	for ; set != 0; set &= set - 1 {
+		points = append(points, First(set))
+	}
+	return points
+}

@@ -1,0 +1,49 @@
+package sets
+
+import (
+	"math"
+	"slices"
+	"testing"
+)
+
+func TestCountsAndSets(t *testing.T) {
+	for n, want := range map[int]bool{-1: false, 0: true, 1: true, 10: true, 11: false, math.MinInt: false, math.MaxInt: false} {
+		if IsCount(n) != want {
+			t.Errorf("IsCount(%d) = %v", n, !want)
+		}
+	}
+	for _, c := range []struct {
+		set, n int
+		want   bool
+	}{
+		{0, 0, true}, {1, 0, false}, {1, 1, true}, {2, 1, false}, {3, 2, true}, {1023, 10, true}, {1024, 10, false},
+		{-1, 10, false}, {math.MinInt, 10, false}, {math.MaxInt, 10, false},
+	} {
+		if Within(c.set, c.n) != c.want {
+			t.Errorf("Within(%d, %d) = %v", c.set, c.n, !c.want)
+		}
+	}
+}
+
+func TestMembers(t *testing.T) {
+	for set := range 1 << 10 {
+		var want []int
+		for p := range 10 {
+			if set/(1<<p)%2 == 1 {
+				want = append(want, p)
+			}
+			if Has(set, p) != (set/(1<<p)%2 == 1) {
+				t.Fatalf("Has(%d, %d) = %v", set, p, Has(set, p))
+			}
+		}
+		if got := Members(set); !slices.Equal(got, want) || Size(set) != len(want) {
+			t.Fatalf("Members(%d) = %v, Size %d", set, got, Size(set))
+		}
+		if set > 0 && First(set) != want[0] {
+			t.Fatalf("First(%d) = %d", set, First(set))
+		}
+	}
+	if All(0) != 0 || All(3) != 7 || All(10) != 1023 {
+		t.Errorf("All: %d %d %d", All(0), All(3), All(10))
+	}
+}
