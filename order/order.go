@@ -33,7 +33,7 @@ func Make(n int, pairs [][2]int) (api.Order, api.Errno) {
 	below := make([]int, n)
 	for _, pair := range pairs {
 		lower, upper := pair[0], pair[1]
-		if !isPoint(lower, n) || !isPoint(upper, n) {
+		if !sets.IsPoint(lower, n) || !sets.IsPoint(upper, n) {
 			return api.Order{}, api.ErrRange
 		}
 		below[upper] |= 1 << lower
@@ -150,9 +150,6 @@ every:
 	}
 	return ideals, api.OK
 }
-
-// isPoint tells whether a number is one of n points.
-func isPoint(point, n int) bool { return point >= 0 && point < n }
 
 // checkAll looks at orders from the first on, so that of several wrong ones the first is told of.
 func checkAll(orders ...api.Order) api.Errno {

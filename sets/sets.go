@@ -10,6 +10,9 @@ import (
 // IsCount tells whether there may be n points.
 func IsCount(n int) bool { return n >= 0 && n <= api.MaxPoints }
 
+// IsPoint tells whether a number is one of n points.
+func IsPoint(point, n int) bool { return point >= 0 && point < n }
+
 // All is the set of n points.
 func All(n int) int { return 1<<n - 1 }
 

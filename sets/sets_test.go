@@ -12,6 +12,14 @@ func TestCountsAndSets(t *testing.T) {
 			t.Errorf("IsCount(%d) = %v", n, !want)
 		}
 	}
+	for point, want := range map[int]bool{-1: false, 0: true, 9: true, 10: false, math.MinInt: false, math.MaxInt: false} {
+		if IsPoint(point, 10) != want {
+			t.Errorf("IsPoint(%d, 10) = %v", point, !want)
+		}
+	}
+	if IsPoint(0, 0) {
+		t.Error("0 is a point of none")
+	}
 	for _, c := range []struct {
 		set, n int
 		want   bool

@@ -1,0 +1,388 @@
+package extend
+
+import (
+	"math"
+	"slices"
+	"testing"
+
+	"hasse/api"
+	"hasse/order"
+	"hasse/samples"
+)
+
+// below tells an order by its sets.
+func below(sets ...int) api.Order { return samples.Below(sets...) }
+
+func isBelow(o api.Order, a, b int) bool { return o.Below[b]>>a&1 == 1 }
+
+// Orders of as many points as there may be: all apart, in a chain either way round, and in five storeys of two.
+func apart() api.Order   { return below(make([]int, 10)...) }
+func rising() api.Order  { return below(0, 1, 3, 7, 15, 31, 63, 127, 255, 511) }
+func falling() api.Order { return below(1022, 1020, 1016, 1008, 992, 960, 896, 768, 512, 0) }
+func storeys() api.Order { return below(0, 0, 3, 3, 15, 15, 63, 63, 255, 255) }
+
+// lists of each of n points once, as lists are compared.
+func lists(n int) [][]int {
+	all := [][]int{{}}
+	for range n {
+		var longer [][]int
+		for _, list := range all {
+			for p := range n {
+				if !slices.Contains(list, p) {
+					longer = append(longer, append(slices.Clone(list), p))
+				}
+			}
+		}
+		all = longer
+	}
+	return all
+}
+
+// isRow by the words of the chapter, of a list that has each point once.
+func isRow(o api.Order, list []int) bool {
+	for i, later := range list {
+		for _, p := range list[:i] {
+			if isBelow(o, later, p) {
+				return false
+			}
+		}
+	}
+	return true
+}
+
+// rowsOf an order, found among all lists.
+func rowsOf(o api.Order) [][]int {
+	var rows [][]int
+	for _, list := range lists(o.N) {
+		if isRow(o, list) {
+			rows = append(rows, list)
+		}
+	}
+	return rows
+}
+
+// tried orders have few enough points for all their lists to be looked through: all small ones, and some of five and six points.
+func tried() []api.Order {
+	orders := samples.SmallOrders()
+	for _, o := range samples.GreatOrders(200) {
+		if o.N <= 6 {
+			orders = append(orders, o)
+		}
+	}
+	return orders
+}
+
+func stands(row []int, a, b int) bool { return slices.Index(row, a) < slices.Index(row, b) }
+
+func TestF1Count(t *testing.T) {
+	for _, c := range []struct {
+		o    api.Order
+		want int
+	}{
+		{api.Order{}, 1},
+		{below(0), 1},
+		{below(0, 0), 2},
+		{below(2, 0), 1},
+		{below(0, 0, 0), 6},
+		{below(0, 0, 3, 2), 5},
+		{below(0, 1, 0, 4), 6},
+		{apart(), 3628800},
+		{rising(), 1},
+		{falling(), 1},
+		{storeys(), 32},
+		// Pairs, one below the other: 10! / 2^5.
+		{below(0, 1, 0, 4, 0, 16, 0, 64, 0, 256), 113400},
+		// Two rows of five, each of the upper ones above its lower one and what is left of it: a number of Catalan.
+		{below(0, 1, 3, 7, 15, 1, 35, 103, 239, 511), 42},
+	} {
+		if got, err := Count(c.o); err != api.OK || got != c.want {
+			t.Errorf("Count(%v) = %d, error %d, want %d", c.o, got, err, c.want)
+		}
+	}
+}
+
+func TestF1AllRows(t *testing.T) {
+	for _, o := range tried() {
+		rows := rowsOf(o)
+		if got, err := Count(o); err != api.OK || got != len(rows) {
+			t.Fatalf("Count(%v) = %d, error %d, want %d", o, got, err, len(rows))
+		}
+		for k, row := range rows {
+			if got, err := Nth(o, k); err != api.OK || !slices.Equal(got, row) {
+				t.Fatalf("Nth(%v, %d) = %v, error %d, want %v", o, k, got, err, row)
+			}
+			if got, err := Rank(o, row); err != api.OK || got != k {
+				t.Fatalf("Rank(%v, %v) = %d, error %d, want %d", o, row, got, err, k)
+			}
+		}
+	}
+}
+
+func TestF1Nth(t *testing.T) {
+	for _, c := range []struct {
+		o    api.Order
+		k    int
+		want []int
+		err  api.Errno
+	}{
+		{api.Order{}, 0, nil, api.OK},
+		{api.Order{}, 1, nil, api.ErrRange},
+		{api.Order{}, -1, nil, api.ErrRange},
+		{below(0, 0, 0), 3, []int{1, 2, 0}, api.OK},
+		{below(0, 0, 0), 5, []int{2, 1, 0}, api.OK},
+		{below(0, 0, 0), 6, nil, api.ErrRange},
+		{below(0, 0, 0), -1, nil, api.ErrRange},
+		{below(0, 0, 0), math.MinInt, nil, api.ErrRange},
+		{below(0, 0, 0), math.MaxInt, nil, api.ErrRange},
+		{below(2, 0), 1, nil, api.ErrRange},
+		{apart(), 3628799, []int{9, 8, 7, 6, 5, 4, 3, 2, 1, 0}, api.OK},
+		{apart(), 3628800, nil, api.ErrRange},
+		{falling(), 0, []int{9, 8, 7, 6, 5, 4, 3, 2, 1, 0}, api.OK},
+		{storeys(), 31, []int{1, 0, 3, 2, 5, 4, 7, 6, 9, 8}, api.OK},
+	} {
+		if got, err := Nth(c.o, c.k); err != c.err || !slices.Equal(got, c.want) {
+			t.Errorf("Nth(%v, %d) = %v, error %d, want %v, error %d", c.o, c.k, got, err, c.want, c.err)
+		}
+	}
+}
+
+func TestF1RankOfNoRow(t *testing.T) {
+	for _, c := range []struct {
+		o   api.Order
+		row []int
+	}{
+		{api.Order{}, []int{0}},
+		{below(0), nil},
+		{below(0), []int{1}},
+		{below(0), []int{-1}},
+		{below(0), []int{0, 0}},
+		{below(0), []int{math.MinInt}},
+		{below(0), []int{math.MaxInt}},
+		{below(0), []int{64}},
+		{below(0, 0), []int{0, 0}},
+		{below(0, 0), []int{0}},
+		{below(0, 0), []int{0, 1, 2}},
+		{below(0, 0), []int{0, 1, 0}},
+		{below(0, 0), []int{0, 2}},
+		{below(0, 1), []int{1, 0}},
+		{below(0, 1, 3), []int{0, 2, 1}},
+		{below(0, 0, 3, 2), []int{0, 3, 1, 2}},
+		{apart(), []int{0, 1, 2, 3, 4, 5, 6, 7, 8, 10}},
+		{apart(), []int{0, 1, 2, 3, 4, 5, 6, 7, 8, 8}},
+		{apart(), make([]int, 1000)},
+	} {
+		if got, err := Rank(c.o, c.row); err != api.ErrForm || got != 0 {
+			t.Errorf("Rank(%v, %v) = %d, error %d, want error %d", c.o, c.row, got, err, api.ErrForm)
+		}
+	}
+	for _, o := range tried() {
+		if o.N > 5 {
+			continue
+		}
+		for _, list := range lists(o.N) {
+			if _, err := Rank(o, list); (err == api.OK) != isRow(o, list) || err != api.OK && err != api.ErrForm {
+				t.Fatalf("Rank(%v, %v): error %d", o, list, err)
+			}
+		}
+	}
+}
+
+func TestF2(t *testing.T) {
+	for _, c := range []struct {
+		o           api.Order
+		a, b, c     int
+		ahead, both int
+	}{
+		{below(0), 0, 0, 0, 0, 0},
+		{below(0, 0), 0, 1, 1, 1, 1},
+		{below(0, 0), 0, 1, 0, 1, 0},
+		{below(0, 0), 0, 0, 1, 0, 0},
+		{below(0, 1), 0, 1, 1, 1, 1},
+		{below(0, 1), 1, 0, 0, 0, 0},
+		{below(0, 0, 0), 0, 1, 2, 3, 2},
+		{below(0, 0, 0), 2, 1, 0, 3, 2},
+		{below(0, 0, 0), 2, 1, 1, 3, 3},
+		{below(0, 0, 3, 2), 0, 1, 2, 2, 2},
+		{below(0, 0, 3, 2), 0, 3, 1, 4, 2},
+		{apart(), 9, 0, 4, 1814400, 1209600},
+		{falling(), 9, 0, 4, 1, 1},
+		{falling(), 9, 0, 9, 1, 0},
+		{storeys(), 1, 0, 9, 16, 16},
+	} {
+		if got, err := Ahead(c.o, c.a, c.b); err != api.OK || got != c.ahead {
+			t.Errorf("Ahead(%v, %d, %d) = %d, error %d, want %d", c.o, c.a, c.b, got, err, c.ahead)
+		}
+		if got, err := Both(c.o, c.a, c.b, c.c); err != api.OK || got != c.both {
+			t.Errorf("Both(%v, %d, %d, %d) = %d, error %d, want %d", c.o, c.a, c.b, c.c, got, err, c.both)
+		}
+	}
+}
+
+// counted among rows.
+func counted(rows [][]int, ask func([]int) bool) int {
+	count := 0
+	for _, row := range rows {
+		if ask(row) {
+			count++
+		}
+	}
+	return count
+}
+
+func TestF2ByAllRows(t *testing.T) {
+	for _, o := range tried() {
+		rows := rowsOf(o)
+		for a := range o.N {
+			for b := range o.N {
+				want := counted(rows, func(row []int) bool { return stands(row, a, b) })
+				if got, err := Ahead(o, a, b); err != api.OK || got != want {
+					t.Fatalf("Ahead(%v, %d, %d) = %d, error %d, want %d", o, a, b, got, err, want)
+				}
+				for c := range o.N {
+					want := counted(rows, func(row []int) bool { return stands(row, a, b) && stands(row, a, c) })
+					if got, err := Both(o, a, b, c); err != api.OK || got != want {
+						t.Fatalf("Both(%v, %d, %d, %d) = %d, error %d, want %d", o, a, b, c, got, err, want)
+					}
+				}
+			}
+		}
+	}
+}
+
+func TestF2NoPoint(t *testing.T) {
+	for _, o := range []api.Order{{}, below(0), below(0, 1, 0), apart()} {
+		for _, no := range []int{-1, o.N, 10, 63, 64, math.MinInt, math.MaxInt} {
+			for _, p := range [][2]int{{no, 0}, {0, no}, {no, no}} {
+				if got, err := Ahead(o, p[0], p[1]); err != api.ErrRange || got != 0 {
+					t.Errorf("Ahead(%v, %v) = %d, error %d", o, p, got, err)
+				}
+			}
+			for _, p := range [][3]int{{no, 0, 0}, {0, no, 0}, {0, 0, no}, {no, no, no}} {
+				if got, err := Both(o, p[0], p[1], p[2]); err != api.ErrRange || got != 0 {
+					t.Errorf("Both(%v, %v) = %d, error %d", o, p, got, err)
+				}
+			}
+		}
+	}
+}
+
+func TestF3RowsAndNumbers(t *testing.T) {
+	for _, o := range append(samples.GreatOrders(300), apart(), falling(), storeys()) {
+		count, err := Count(o)
+		if err != api.OK || count < 1 {
+			t.Fatalf("Count(%v) = %d, error %d", o, count, err)
+		}
+		var last []int
+		for k := 0; k < count; k += 1 + count/50 {
+			row, err := Nth(o, k)
+			sorted := slices.Sorted(slices.Values(row))
+			for p := range sorted {
+				if sorted[p] != p {
+					t.Fatalf("Nth(%v, %d) = %v has not each point once", o, k, row)
+				}
+			}
+			if err != api.OK || len(row) != o.N || !isRow(o, row) || slices.Compare(last, row) >= 0 {
+				t.Fatalf("Nth(%v, %d) = %v, error %d, behind %v", o, k, row, err, last)
+			}
+			if got, err := Rank(o, row); err != api.OK || got != k {
+				t.Fatalf("Rank(%v, %v) = %d, error %d, want %d", o, row, got, err, k)
+			}
+			last = row
+		}
+	}
+}
+
+func TestF3SideBySide(t *testing.T) {
+	small := samples.SmallOrders()
+	for i, a := range small {
+		for _, b := range small[i%7*30:] {
+			beside, _ := order.Beside(a, b)
+			got, err := Count(beside)
+			x, _ := Count(a)
+			y, _ := Count(b)
+			// In how many ways a's places can be chosen.
+			ways := 1
+			for k := range a.N {
+				ways = ways * (b.N + k + 1) / (k + 1)
+			}
+			if err != api.OK || got != ways*x*y {
+				t.Fatalf("%v beside %v: %d rows, error %d, want %d", a, b, got, err, ways*x*y)
+			}
+		}
+	}
+}
+
+func TestF3Shepp(t *testing.T) {
+	orders := append(samples.GreatOrders(40), apart(), storeys(), falling())
+	for _, o := range append(orders, samples.SmallOrders()...) {
+		count, _ := Count(o)
+		for a := range o.N {
+			for b := range o.N {
+				first, _ := Ahead(o, a, b)
+				other, _ := Ahead(o, b, a)
+				if a != b && first+other != count {
+					t.Fatalf("%v: %d ahead of %d in %d rows, behind it in %d, of %d", o, a, b, first, other, count)
+				}
+				for c := range b {
+					second, _ := Ahead(o, a, c)
+					both, _ := Both(o, a, b, c)
+					if a != b && a != c && first*second > both*count {
+						t.Fatalf("%v: %d ahead of %d: %d, of %d: %d, of both: %d, of %d", o, a, b, first, c, second, both, count)
+					}
+				}
+			}
+		}
+	}
+}
+
+func TestA1CheckIsToldFirst(t *testing.T) {
+	for _, w := range samples.WrongOrders() {
+		if got, err := Count(w.Order); err != w.Err || got != 0 {
+			t.Errorf("Count(%v) = %d, error %d, want error %d", w.Order, got, err, w.Err)
+		}
+		for _, k := range []int{-1, 0} {
+			if got, err := Nth(w.Order, k); err != w.Err || got != nil {
+				t.Errorf("Nth(%v, %d) = %v, error %d, want error %d", w.Order, k, got, err, w.Err)
+			}
+			if got, err := Ahead(w.Order, k, 0); err != w.Err || got != 0 {
+				t.Errorf("Ahead(%v, %d, 0) = %d, error %d, want error %d", w.Order, k, got, err, w.Err)
+			}
+			if got, err := Both(w.Order, 0, 0, k); err != w.Err || got != 0 {
+				t.Errorf("Both(%v, 0, 0, %d) = %d, error %d, want error %d", w.Order, k, got, err, w.Err)
+			}
+		}
+		for _, row := range [][]int{nil, {0, 1}, {5}} {
+			if got, err := Rank(w.Order, row); err != w.Err || got != 0 {
+				t.Errorf("Rank(%v, %v) = %d, error %d, want error %d", w.Order, row, got, err, w.Err)
+			}
+		}
+	}
+}
+
+func TestP2P3OnlyReadAndTheSameEachTime(t *testing.T) {
+	list, room := samples.Roomy(0, 0, 3, 2)
+	row, rowRoom := samples.Roomy(1, 0, 3, 2)
+	before, rowBefore := slices.Clone(room), slices.Clone(rowRoom)
+	o := below(list...)
+	for range 3 {
+		count, _ := Count(o)
+		ahead, _ := Ahead(o, 0, 1)
+		back, _ := Ahead(o, 2, 0)
+		both, _ := Both(o, 0, 3, 1)
+		rank, _ := Rank(o, row)
+		if count != 5 || ahead != 2 || back != 0 || both != 2 || rank != 3 {
+			t.Errorf("%v: %d %d %d %d %d", o, count, ahead, back, both, rank)
+		}
+		got, err := Nth(o, 3)
+		if err != api.OK || !slices.Equal(got, []int{1, 0, 3, 2}) {
+			t.Errorf("Nth(%v, 3) = %v, error %d", o, got, err)
+		}
+		whole := got[:cap(got)]
+		for i := range whole {
+			whole[i] = -5
+		}
+	}
+	if !slices.Equal(room, before) || !slices.Equal(rowRoom, rowBefore) {
+		t.Errorf("what was handed in was changed: %v, %v", room, rowRoom)
+	}
+}
