@@ -12,22 +12,14 @@ import (
 // below tells an order by its sets.
 func below(sets ...int) api.Order { return samples.Below(sets...) }
 
-func isBelow(o api.Order, a, b int) bool { return o.Below[b]>>a&1 == 1 }
-
 func size(set int) int { return bits.OnesCount(uint(set)) }
-
-// Orders of as many points as there may be: all apart, in a chain either way round, and in five storeys of two.
-func apart() api.Order   { return below(make([]int, 10)...) }
-func rising() api.Order  { return below(0, 1, 3, 7, 15, 31, 63, 127, 255, 511) }
-func falling() api.Order { return below(1022, 1020, 1016, 1008, 992, 960, 896, 768, 512, 0) }
-func storeys() api.Order { return below(0, 0, 3, 3, 15, 15, 63, 63, 255, 255) }
 
 // greedy is an order whose longest chain, 0 1 2 3, is in no two chains that have all six points: 4 is below 2, and 5 above 1.
 func greedy() api.Order { return below(0, 1, 19, 23, 0, 3) }
 
 // tried orders: all small ones and some great ones.
 func tried() []api.Order {
-	return append(samples.SmallOrders(), append(samples.GreatOrders(200), apart(), rising(), falling(), storeys(), greedy())...)
+	return append(samples.SmallOrders(), append(samples.GreatOrders(200), samples.Apart(), samples.Rising(), samples.Falling(), samples.Storeys(), greedy())...)
 }
 
 // allOf the sets of an order's points of which each two are asked alike.
@@ -48,11 +40,11 @@ every:
 }
 
 func chains(o api.Order) []int {
-	return allOf(o, func(a, b int) bool { return isBelow(o, a, b) || isBelow(o, b, a) })
+	return allOf(o, func(a, b int) bool { return samples.IsBelow(o, a, b) || samples.IsBelow(o, b, a) })
 }
 
 func antichains(o api.Order) []int {
-	return allOf(o, func(a, b int) bool { return !isBelow(o, a, b) && !isBelow(o, b, a) })
+	return allOf(o, func(a, b int) bool { return !samples.IsBelow(o, a, b) && !samples.IsBelow(o, b, a) })
 }
 
 // plainGains by the words of E2: all sets that one, two, three and more of some have together.
@@ -96,10 +88,10 @@ func TestE1Widest(t *testing.T) {
 		{below(12, 8, 0, 0), 3},
 		// So is 10, the level above it.
 		{below(0, 5, 0, 4), 5},
-		{apart(), 1023},
-		{rising(), 1},
-		{falling(), 1},
-		{storeys(), 3},
+		{samples.Apart(), 1023},
+		{samples.Rising(), 1},
+		{samples.Falling(), 1},
+		{samples.Storeys(), 3},
 		{greedy(), 17},
 	} {
 		if got, err := Widest(c.o); err != api.OK || got != c.want {
@@ -127,7 +119,7 @@ func arePartsOf(o api.Order, parts [][]int) bool {
 			return false
 		}
 		for i, p := range part {
-			if p < 0 || p >= o.N || i > 0 && !isBelow(o, part[i-1], p) {
+			if p < 0 || p >= o.N || i > 0 && !samples.IsBelow(o, part[i-1], p) {
 				return false
 			}
 			seen[p]++
@@ -161,10 +153,10 @@ func TestE1Parts(t *testing.T) {
 		{below(0, 0), 2},
 		{below(2, 0), 1},
 		{below(0, 0, 3, 2), 2},
-		{apart(), 10},
-		{rising(), 1},
-		{falling(), 1},
-		{storeys(), 2},
+		{samples.Apart(), 10},
+		{samples.Rising(), 1},
+		{samples.Falling(), 1},
+		{samples.Storeys(), 2},
 		{greedy(), 2},
 	} {
 		if got, err := Parts(c.o); err != api.OK || len(got) != c.want || !arePartsOf(c.o, got) {
@@ -189,10 +181,10 @@ func TestE2(t *testing.T) {
 		{below(0, 1), []int{2}, []int{1, 1}},
 		{below(0, 0, 3, 2), []int{2, 2}, []int{2, 2}},
 		{below(8, 8, 11, 0), []int{3, 1}, []int{2, 1, 1}},
-		{apart(), slices.Repeat([]int{1}, 10), []int{10}},
-		{rising(), []int{10}, slices.Repeat([]int{1}, 10)},
-		{falling(), []int{10}, slices.Repeat([]int{1}, 10)},
-		{storeys(), []int{5, 5}, []int{2, 2, 2, 2, 2}},
+		{samples.Apart(), slices.Repeat([]int{1}, 10), []int{10}},
+		{samples.Rising(), []int{10}, slices.Repeat([]int{1}, 10)},
+		{samples.Falling(), []int{10}, slices.Repeat([]int{1}, 10)},
+		{samples.Storeys(), []int{5, 5}, []int{2, 2, 2, 2, 2}},
 		{greedy(), []int{4, 2}, []int{2, 2, 1, 1}},
 	} {
 		if got, err := ByChains(c.o); err != api.OK || !slices.Equal(got, c.byChains) {
@@ -275,14 +267,6 @@ func TestA1CheckIsToldFirst(t *testing.T) {
 	}
 }
 
-// spoil writes over a list and all the room behind it.
-func spoil(list []int) {
-	whole := list[:cap(list)]
-	for i := range whole {
-		whole[i] = -5
-	}
-}
-
 func TestP2P3OnlyReadAndTheSameEachTime(t *testing.T) {
 	list, room := samples.Roomy(0, 0, 3, 2, 7)
 	before := slices.Clone(room)
@@ -290,7 +274,7 @@ func TestP2P3OnlyReadAndTheSameEachTime(t *testing.T) {
 	for name, call := range map[string]func(api.Order) ([]int, api.Errno){"ByChains": ByChains, "ByAntichains": ByAntichains} {
 		first, _ := call(o)
 		want := slices.Clone(first)
-		spoil(first)
+		samples.Spoil(first)
 		if again, err := call(o); err != api.OK || !slices.Equal(again, want) {
 			t.Errorf("%s: %v, and then %v, error %d", name, want, again, err)
 		}
@@ -313,7 +297,7 @@ func TestP2P3PartsShareNothing(t *testing.T) {
 		if !slices.Equal(part, want[i]) {
 			t.Errorf("part %d was %v, and is %v", i, want[i], part)
 		}
-		spoil(part)
+		samples.Spoil(part)
 	}
 	again, err := Parts(o)
 	if err != api.OK || !slices.EqualFunc(again, want, slices.Equal) {

@@ -13,14 +13,6 @@ import (
 // below tells an order by its sets.
 func below(sets ...int) api.Order { return samples.Below(sets...) }
 
-func isBelow(o api.Order, a, b int) bool { return o.Below[b]>>a&1 == 1 }
-
-// Orders of as many points as there may be: all apart, in a chain either way round, and in five storeys of two.
-func apart() api.Order   { return below(make([]int, 10)...) }
-func rising() api.Order  { return below(0, 1, 3, 7, 15, 31, 63, 127, 255, 511) }
-func falling() api.Order { return below(1022, 1020, 1016, 1008, 992, 960, 896, 768, 512, 0) }
-func storeys() api.Order { return below(0, 0, 3, 3, 15, 15, 63, 63, 255, 255) }
-
 // lists of each of n points once, as lists are compared.
 func lists(n int) [][]int {
 	all := [][]int{{}}
@@ -42,7 +34,7 @@ func lists(n int) [][]int {
 func isRow(o api.Order, list []int) bool {
 	for i, later := range list {
 		for _, p := range list[:i] {
-			if isBelow(o, later, p) {
+			if samples.IsBelow(o, later, p) {
 				return false
 			}
 		}
@@ -86,10 +78,10 @@ func TestF1Count(t *testing.T) {
 		{below(0, 0, 0), 6},
 		{below(0, 0, 3, 2), 5},
 		{below(0, 1, 0, 4), 6},
-		{apart(), 3628800},
-		{rising(), 1},
-		{falling(), 1},
-		{storeys(), 32},
+		{samples.Apart(), 3628800},
+		{samples.Rising(), 1},
+		{samples.Falling(), 1},
+		{samples.Storeys(), 32},
 		// Pairs, one below the other: 10! / 2^5.
 		{below(0, 1, 0, 4, 0, 16, 0, 64, 0, 256), 113400},
 		// Two rows of five, each of the upper ones above its lower one and what is left of it: a number of Catalan.
@@ -135,10 +127,10 @@ func TestF1Nth(t *testing.T) {
 		{below(0, 0, 0), math.MinInt, nil, api.ErrRange},
 		{below(0, 0, 0), math.MaxInt, nil, api.ErrRange},
 		{below(2, 0), 1, nil, api.ErrRange},
-		{apart(), 3628799, []int{9, 8, 7, 6, 5, 4, 3, 2, 1, 0}, api.OK},
-		{apart(), 3628800, nil, api.ErrRange},
-		{falling(), 0, []int{9, 8, 7, 6, 5, 4, 3, 2, 1, 0}, api.OK},
-		{storeys(), 31, []int{1, 0, 3, 2, 5, 4, 7, 6, 9, 8}, api.OK},
+		{samples.Apart(), 3628799, []int{9, 8, 7, 6, 5, 4, 3, 2, 1, 0}, api.OK},
+		{samples.Apart(), 3628800, nil, api.ErrRange},
+		{samples.Falling(), 0, []int{9, 8, 7, 6, 5, 4, 3, 2, 1, 0}, api.OK},
+		{samples.Storeys(), 31, []int{1, 0, 3, 2, 5, 4, 7, 6, 9, 8}, api.OK},
 	} {
 		if got, err := Nth(c.o, c.k); err != c.err || !slices.Equal(got, c.want) {
 			t.Errorf("Nth(%v, %d) = %v, error %d, want %v, error %d", c.o, c.k, got, err, c.want, c.err)
@@ -167,9 +159,9 @@ func TestF1RankOfNoRow(t *testing.T) {
 		{below(0, 1), []int{1, 0}},
 		{below(0, 1, 3), []int{0, 2, 1}},
 		{below(0, 0, 3, 2), []int{0, 3, 1, 2}},
-		{apart(), []int{0, 1, 2, 3, 4, 5, 6, 7, 8, 10}},
-		{apart(), []int{0, 1, 2, 3, 4, 5, 6, 7, 8, 8}},
-		{apart(), make([]int, 1000)},
+		{samples.Apart(), []int{0, 1, 2, 3, 4, 5, 6, 7, 8, 10}},
+		{samples.Apart(), []int{0, 1, 2, 3, 4, 5, 6, 7, 8, 8}},
+		{samples.Apart(), make([]int, 1000)},
 	} {
 		if got, err := Rank(c.o, c.row); err != api.ErrForm || got != 0 {
 			t.Errorf("Rank(%v, %v) = %d, error %d, want error %d", c.o, c.row, got, err, api.ErrForm)
@@ -204,10 +196,10 @@ func TestF2(t *testing.T) {
 		{below(0, 0, 0), 2, 1, 1, 3, 3},
 		{below(0, 0, 3, 2), 0, 1, 2, 2, 2},
 		{below(0, 0, 3, 2), 0, 3, 1, 4, 2},
-		{apart(), 9, 0, 4, 1814400, 1209600},
-		{falling(), 9, 0, 4, 1, 1},
-		{falling(), 9, 0, 9, 1, 0},
-		{storeys(), 1, 0, 9, 16, 16},
+		{samples.Apart(), 9, 0, 4, 1814400, 1209600},
+		{samples.Falling(), 9, 0, 4, 1, 1},
+		{samples.Falling(), 9, 0, 9, 1, 0},
+		{samples.Storeys(), 1, 0, 9, 16, 16},
 	} {
 		if got, err := Ahead(c.o, c.a, c.b); err != api.OK || got != c.ahead {
 			t.Errorf("Ahead(%v, %d, %d) = %d, error %d, want %d", c.o, c.a, c.b, got, err, c.ahead)
@@ -250,7 +242,7 @@ func TestF2ByAllRows(t *testing.T) {
 }
 
 func TestF2NoPoint(t *testing.T) {
-	for _, o := range []api.Order{{}, below(0), below(0, 1, 0), apart()} {
+	for _, o := range []api.Order{{}, below(0), below(0, 1, 0), samples.Apart()} {
 		for _, no := range []int{-1, o.N, 10, 63, 64, math.MinInt, math.MaxInt} {
 			for _, p := range [][2]int{{no, 0}, {0, no}, {no, no}} {
 				if got, err := Ahead(o, p[0], p[1]); err != api.ErrRange || got != 0 {
@@ -267,7 +259,7 @@ func TestF2NoPoint(t *testing.T) {
 }
 
 func TestF3RowsAndNumbers(t *testing.T) {
-	for _, o := range append(samples.GreatOrders(300), apart(), falling(), storeys()) {
+	for _, o := range append(samples.GreatOrders(300), samples.Apart(), samples.Falling(), samples.Storeys()) {
 		count, err := Count(o)
 		if err != api.OK || count < 1 {
 			t.Fatalf("Count(%v) = %d, error %d", o, count, err)
@@ -313,7 +305,7 @@ func TestF3SideBySide(t *testing.T) {
 }
 
 func TestF3Shepp(t *testing.T) {
-	orders := append(samples.GreatOrders(40), apart(), storeys(), falling())
+	orders := append(samples.GreatOrders(40), samples.Apart(), samples.Storeys(), samples.Falling())
 	for _, o := range append(orders, samples.SmallOrders()...) {
 		count, _ := Count(o)
 		for a := range o.N {
@@ -377,10 +369,7 @@ func TestP2P3OnlyReadAndTheSameEachTime(t *testing.T) {
 		if err != api.OK || !slices.Equal(got, []int{1, 0, 3, 2}) {
 			t.Errorf("Nth(%v, 3) = %v, error %d", o, got, err)
 		}
-		whole := got[:cap(got)]
-		for i := range whole {
-			whole[i] = -5
-		}
+		samples.Spoil(got)
 	}
 	if !slices.Equal(room, before) || !slices.Equal(rowRoom, rowBefore) {
 		t.Errorf("what was handed in was changed: %v, %v", room, rowRoom)

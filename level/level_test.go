@@ -11,21 +11,13 @@ import (
 // below tells an order by its sets.
 func below(sets ...int) api.Order { return samples.Below(sets...) }
 
-func isBelow(o api.Order, a, b int) bool { return o.Below[b]>>a&1 == 1 }
-
-// Orders of as many points as there may be: all apart, in a chain either way round, and in five storeys of two.
-func apart() api.Order   { return below(make([]int, 10)...) }
-func rising() api.Order  { return below(0, 1, 3, 7, 15, 31, 63, 127, 255, 511) }
-func falling() api.Order { return below(1022, 1020, 1016, 1008, 992, 960, 896, 768, 512, 0) }
-func storeys() api.Order { return below(0, 0, 3, 3, 15, 15, 63, 63, 255, 255) }
-
 // allChains of an order, one list each, by going up from each point to each above it.
 func allChains(o api.Order) [][]int {
 	chains := [][]int{{}}
 	for i := 0; i < len(chains); i++ {
 		chain := chains[i]
 		for p := range o.N {
-			if len(chain) == 0 || isBelow(o, chain[len(chain)-1], p) {
+			if len(chain) == 0 || samples.IsBelow(o, chain[len(chain)-1], p) {
 				chains = append(chains, append(slices.Clone(chain), p))
 			}
 		}
@@ -35,7 +27,7 @@ func allChains(o api.Order) [][]int {
 
 // tried orders: all small ones and some great ones.
 func tried() []api.Order {
-	return append(samples.SmallOrders(), append(samples.GreatOrders(300), apart(), rising(), falling(), storeys())...)
+	return append(samples.SmallOrders(), append(samples.GreatOrders(300), samples.Apart(), samples.Rising(), samples.Falling(), samples.Storeys())...)
 }
 
 func TestC1Heights(t *testing.T) {
@@ -50,8 +42,8 @@ func TestC1Heights(t *testing.T) {
 		{below(6, 4, 0), []int{2, 1, 0}},
 		{below(8, 8, 11, 0), []int{1, 1, 2, 0}},
 		{below(0, 1, 3, 0, 15), []int{0, 1, 2, 0, 3}},
-		{falling(), []int{9, 8, 7, 6, 5, 4, 3, 2, 1, 0}},
-		{storeys(), []int{0, 0, 1, 1, 2, 2, 3, 3, 4, 4}},
+		{samples.Falling(), []int{9, 8, 7, 6, 5, 4, 3, 2, 1, 0}},
+		{samples.Storeys(), []int{0, 0, 1, 1, 2, 2, 3, 3, 4, 4}},
 	} {
 		if got, err := Heights(c.o); err != api.OK || !slices.Equal(got, c.want) {
 			t.Errorf("Heights(%v) = %v, error %d, want %v", c.o, got, err, c.want)
@@ -87,8 +79,8 @@ func TestC1Longest(t *testing.T) {
 		{below(0, 8, 10, 0), []int{3, 1, 2}},
 		// From 0 the least one above is 1, but that leads nowhere.
 		{below(0, 1, 1, 5), []int{0, 2, 3}},
-		{falling(), []int{9, 8, 7, 6, 5, 4, 3, 2, 1, 0}},
-		{storeys(), []int{0, 2, 4, 6, 8}},
+		{samples.Falling(), []int{9, 8, 7, 6, 5, 4, 3, 2, 1, 0}},
+		{samples.Storeys(), []int{0, 2, 4, 6, 8}},
 	} {
 		if got, err := Longest(c.o); err != api.OK || !slices.Equal(got, c.want) {
 			t.Errorf("Longest(%v) = %v, error %d, want %v", c.o, got, err, c.want)
@@ -119,8 +111,8 @@ func TestC1Levels(t *testing.T) {
 		{below(0, 0), []int{3}},
 		{below(0, 1, 3), []int{1, 2, 4}},
 		{below(8, 8, 11, 0), []int{8, 3, 4}},
-		{apart(), []int{1023}},
-		{storeys(), []int{3, 12, 48, 192, 768}},
+		{samples.Apart(), []int{1023}},
+		{samples.Storeys(), []int{3, 12, 48, 192, 768}},
 	} {
 		if got, err := Levels(c.o); err != api.OK || !slices.Equal(got, c.want) {
 			t.Errorf("Levels(%v) = %v, error %d, want %v", c.o, got, err, c.want)
@@ -151,10 +143,10 @@ func TestC1Graded(t *testing.T) {
 	}{
 		{api.Order{}, true},
 		{below(0), true},
-		{apart(), true},
-		{rising(), true},
-		{storeys(), true},
-		{falling(), true},
+		{samples.Apart(), true},
+		{samples.Rising(), true},
+		{samples.Storeys(), true},
+		{samples.Falling(), true},
 		{below(0, 0, 3, 2), true},
 		{below(0, 1, 1, 7), true},
 		// One of the two below the top begins a chain of its own there.
@@ -178,9 +170,9 @@ func plainlyGraded(o api.Order) bool {
 	heights, _ := Heights(o)
 	for a := range o.N {
 		for b := range o.N {
-			covers := isBelow(o, a, b)
+			covers := samples.IsBelow(o, a, b)
 			for c := range o.N {
-				covers = covers && !(isBelow(o, a, c) && isBelow(o, c, b))
+				covers = covers && !(samples.IsBelow(o, a, c) && samples.IsBelow(o, c, b))
 			}
 			if covers && heights[b] != heights[a]+1 {
 				return false
@@ -200,10 +192,10 @@ func TestC1Chains(t *testing.T) {
 		{below(0, 0), []int{1, 2}},
 		{below(0, 1, 3), []int{1, 3, 3, 1}},
 		{below(8, 8, 11, 0), []int{1, 4, 5, 2}},
-		{apart(), []int{1, 10}},
-		{rising(), []int{1, 10, 45, 120, 210, 252, 210, 120, 45, 10, 1}},
-		{falling(), []int{1, 10, 45, 120, 210, 252, 210, 120, 45, 10, 1}},
-		{storeys(), []int{1, 10, 40, 80, 80, 32}},
+		{samples.Apart(), []int{1, 10}},
+		{samples.Rising(), []int{1, 10, 45, 120, 210, 252, 210, 120, 45, 10, 1}},
+		{samples.Falling(), []int{1, 10, 45, 120, 210, 252, 210, 120, 45, 10, 1}},
+		{samples.Storeys(), []int{1, 10, 40, 80, 80, 32}},
 	} {
 		if got, err := Chains(c.o); err != api.OK || !slices.Equal(got, c.want) {
 			t.Errorf("Chains(%v) = %v, error %d, want %v", c.o, got, err, c.want)
@@ -232,7 +224,7 @@ func TestC2Mirsky(t *testing.T) {
 			t.Fatalf("%v: levels %v, longest chain %v, chains %v", o, levels, longest, chains)
 		}
 		for i, p := range longest {
-			if i > 0 && !isBelow(o, longest[i-1], p) {
+			if i > 0 && !samples.IsBelow(o, longest[i-1], p) {
 				t.Fatalf("Longest(%v) = %v is no chain", o, longest)
 			}
 		}
@@ -299,10 +291,7 @@ func TestP2P3OnlyReadAndTheSameEachTime(t *testing.T) {
 	for name, call := range lists() {
 		first, _ := call(o)
 		want := slices.Clone(first)
-		whole := first[:cap(first)]
-		for i := range whole {
-			whole[i] = -5
-		}
+		samples.Spoil(first)
 		if again, err := call(o); err != api.OK || !slices.Equal(again, want) {
 			t.Errorf("%s: %v, and then %v, error %d", name, want, again, err)
 		}

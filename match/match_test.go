@@ -325,10 +325,7 @@ func TestP2P3OnlyReadAndTheSameEachTime(t *testing.T) {
 		if err != api.OK || !slices.Equal(mates, []int{0, 1, 2}) {
 			t.Fatalf("Best(%v) = %v, error %d", g, mates, err)
 		}
-		whole := mates[:cap(mates)]
-		for i := range whole {
-			whole[i] = -5
-		}
+		samples.Spoil(mates)
 		left, right, _ := Cover(g)
 		again, right2, _ := Cover(g)
 		if left != again || right != right2 {

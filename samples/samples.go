@@ -10,6 +10,21 @@ import (
 // Below tells an order by its sets.
 func Below(sets ...int) api.Order { return api.Order{N: len(sets), Below: sets} }
 
+// IsBelow tells whether a point is below another one.
+func IsBelow(o api.Order, lower, upper int) bool { return o.Below[upper]>>lower&1 == 1 }
+
+// Apart: as many points as there may be that know nothing of one another.
+func Apart() api.Order { return Below(make([]int, 10)...) }
+
+// Rising: a chain of as many points as there may be, from 0 up.
+func Rising() api.Order { return Below(0, 1, 3, 7, 15, 31, 63, 127, 255, 511) }
+
+// Falling: such a chain the other way round.
+func Falling() api.Order { return Below(1022, 1020, 1016, 1008, 992, 960, 896, 768, 512, 0) }
+
+// Storeys: five of two points each, one above the other.
+func Storeys() api.Order { return Below(0, 0, 3, 3, 15, 15, 63, 63, 255, 255) }
+
 // Orders of n points, all of them: all lists of sets, of which those that are orders are kept.
 func Orders(n int) []api.Order {
 	var orders []api.Order
@@ -47,6 +62,36 @@ func SmallOrders() []api.Order {
 		orders = append(orders, Orders(n)...)
 	}
 	return orders
+}
+
+// NaturalOrders of n points: all in which only lesser numbers are below a point. Each order is one of these, numbered anew.
+func NaturalOrders(n int) []api.Order {
+	var orders []api.Order
+	for code := range 1 << (n * (n - 1) / 2) {
+		sets := make([]int, n)
+		for i := range sets {
+			sets[i] = code & (1<<i - 1)
+			code >>= i
+		}
+		if IsOrder(sets) {
+			orders = append(orders, Below(sets...))
+		}
+	}
+	return orders
+}
+
+// Renumbered: the same order, its points numbered any way.
+func Renumbered(o api.Order, draw *Draw) api.Order {
+	names := shuffled(o.N, draw)
+	sets := make([]int, o.N)
+	for upper, name := range names {
+		for lower, other := range names {
+			if IsBelow(o, lower, upper) {
+				sets[name] |= 1 << other
+			}
+		}
+	}
+	return Below(sets...)
 }
 
 // Draw gives numbers that look like chance, the same each time.
@@ -128,4 +173,12 @@ func Roomy(numbers ...int) (list, room []int) {
 	room = append([]int{}, numbers...)
 	room = append(room, 77, 78, 79, 80, 81, 82, 83, 84, 85, 86)
 	return room[:len(numbers)], room
+}
+
+// Spoil writes over a list and all the room behind it.
+func Spoil(list []int) {
+	whole := list[:cap(list)]
+	for i := range whole {
+		whole[i] = -5
+	}
 }
