@@ -36,3 +36,18 @@ func Members(set int) []int {
 	}
 	return points
 }
+
+// EachOnce tells whether a list has each of n points once, and nothing else.
+func EachOnce(list []int, n int) bool {
+	if len(list) != n {
+		return false
+	}
+	met := 0
+	for _, point := range list {
+		if !IsPoint(point, n) || Has(met, point) {
+			return false
+		}
+		met |= 1 << point
+	}
+	return true
+}

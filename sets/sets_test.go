@@ -55,3 +55,20 @@ func TestMembers(t *testing.T) {
 		t.Errorf("All: %d %d %d", All(0), All(3), All(10))
 	}
 }
+
+func TestEachOnce(t *testing.T) {
+	for _, c := range []struct {
+		list []int
+		n    int
+		want bool
+	}{
+		{nil, 0, true}, {[]int{}, 0, true}, {[]int{0}, 0, false}, {nil, 1, false}, {[]int{0}, 1, true}, {[]int{1}, 1, false},
+		{[]int{1, 0}, 2, true}, {[]int{1, 1}, 2, false}, {[]int{0, 2}, 2, false}, {[]int{0, -1}, 2, false}, {[]int{0, 1}, 3, false}, {[]int{0, 1, 1}, 2, false},
+		{[]int{9, 8, 7, 6, 5, 4, 3, 2, 1, 0}, 10, true}, {[]int{9, 8, 7, 6, 5, 4, 3, 2, 1, 9}, 10, false},
+		{[]int{0, math.MinInt}, 2, false}, {[]int{math.MaxInt, 0}, 2, false},
+	} {
+		if EachOnce(c.list, c.n) != c.want {
+			t.Errorf("EachOnce(%v, %d) = %v", c.list, c.n, !c.want)
+		}
+	}
+}
