@@ -133,7 +133,7 @@ func TestJ1CheckOfChanged(t *testing.T) {
 		for range 12 {
 			l := cloned(right)
 			x, y, value := draw.Next(l.N), draw.Next(l.N), draw.Next(l.N)
-			table := tables(l)[draw.Next(2)]
+			table := pair(l)[draw.Next(2)]
 			table[x][y] = value
 			if draw.Next(4) > 0 {
 				table[y][x] = value
@@ -543,24 +543,9 @@ func count(is bool) int {
 	return 0
 }
 
-// roomy: a lattice whose lists have spare room behind them, and all that room.
-func roomy(l api.Lattice) (api.Lattice, [][]int) {
-	var rooms [][]int
-	lay := func(table [][]int) [][]int {
-		rows := make([][]int, 0, len(table)+3)
-		for _, row := range table {
-			list, room := samples.Roomy(row...)
-			rows = append(rows, list)
-			rooms = append(rooms, room)
-		}
-		return rows
-	}
-	return api.Lattice{N: l.N, Meet: lay(l.Meet), Join: lay(l.Join)}, rooms
-}
-
 func TestP2P3LatticesAreOnlyReadAndTheSameEachTime(t *testing.T) {
 	for _, o := range []api.Order{cube(), pentagon(), diamond(), below(0), samples.Rising()} {
-		l, rooms := roomy(made(t, o))
+		l, rooms := samples.RoomyLattice(made(t, o))
 		before := make([][]int, len(rooms))
 		for i, room := range rooms {
 			before[i] = slices.Clone(room)
@@ -595,7 +580,7 @@ func TestP2P3LatticesAreOnlyReadAndTheSameEachTime(t *testing.T) {
 			Distributive(l)
 			Check(l)
 		}
-		if !reflect.DeepEqual(rooms, before) || len(l.Meet[:cap(l.Meet)]) != l.N+3 || l.Meet[:cap(l.Meet)][l.N] != nil {
+		if !reflect.DeepEqual(rooms, before) || !samples.HasRoom(l) {
 			t.Errorf("the tables of %v were changed", o)
 		}
 	}
@@ -610,15 +595,8 @@ func TestP2TablesAreNewMemory(t *testing.T) {
 		if err != api.OK || !is || !reflect.DeepEqual(got, want) || !slices.Equal(room, before) {
 			t.Fatalf("Tables(%v) = %v, %v, error %d", o, got, is, err)
 		}
-		// Each list, and the room behind it, is written over, and none of the others is touched by it.
-		for i, table := range tables(got) {
-			for x, row := range table {
-				samples.Spoil(row)
-				copy(row, tables(want)[i][x])
-				if !reflect.DeepEqual(got, want) {
-					t.Fatalf("row %d of table %d of %v shares its memory", x, i, o)
-				}
-			}
+		if samples.Shared(append(samples.Rows(got), room)...) {
+			t.Fatalf("the tables of %v share memory", o)
 		}
 		samples.Spoil(got.Meet[0])
 		if again, _, _ := Tables(o); !reflect.DeepEqual(again, want) || !slices.Equal(room, before) {

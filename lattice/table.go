@@ -6,21 +6,18 @@ import (
 	"hasse/sets"
 )
 
-// tables of a lattice, so that what is said of one is said of the other likewise.
-func tables(l api.Lattice) [2][][]int { return [2][][]int{l.Meet, l.Join} }
+// pair of the tables of a lattice, so that what is said of one is said of the other likewise.
+func pair(l api.Lattice) [2][][]int { return [2][][]int{l.Meet, l.Join} }
 
 // inBoth tells whether something is so in either table.
 func inBoth(l api.Lattice, so func(table [][]int) bool) bool {
-	for _, table := range tables(l) {
+	for _, table := range pair(l) {
 		if !so(table) {
 			return false
 		}
 	}
 	return true
 }
-
-// isBelow tells whether an element is below another one.
-func isBelow(l api.Lattice, x, y int) bool { return x != y && l.Meet[x][y] == x }
 
 // isSquare tells whether a table has n rows of n.
 func isSquare(table [][]int, n int) bool {
@@ -63,21 +60,12 @@ func always(n int, law func(x, y, z int) bool) bool {
 	return !broken
 }
 
-// end is the element to which all of them come together in a table: of Meet the least one, of Join the greatest one.
-func end(table [][]int) int {
-	all := 0
-	for x := range table {
-		all = table[all][x]
-	}
-	return all
-}
-
 // meets of each two points of an order; false: two have none.
 func meets(o api.Order) ([][]int, bool) {
 	table := make([][]int, o.N)
 	for x := range o.N {
 		for y := range o.N {
-			meet, found := highest(o, upTo(o, x)&upTo(o, y))
+			meet, found := highest(o, sets.UpTo(o, x)&sets.UpTo(o, y))
 			if !found {
 				return nil, false
 			}
@@ -87,13 +75,10 @@ func meets(o api.Order) ([][]int, bool) {
 	return table, true
 }
 
-// upTo is the set of a point and all below it.
-func upTo(o api.Order, point int) int { return o.Below[point] | 1<<point }
-
 // highest: the point of a set that all others of it are below.
 func highest(o api.Order, set int) (int, bool) {
 	for _, point := range sets.Members(set) {
-		if set&^upTo(o, point) == 0 {
+		if set&^sets.UpTo(o, point) == 0 {
 			return point, true
 		}
 	}

@@ -227,9 +227,9 @@ func join(a, b api.Order, under int) (api.Order, api.Errno) {
 
 // pairsUpTo is the set of pairs, each of whose points is below x or y, or the same: (x, y) is one of them.
 func pairsUpTo(a, b api.Order, x, y int) int {
-	row := b.Below[y] | 1<<y
+	row := sets.UpTo(b, y)
 	pairs := 0
-	for _, point := range sets.Members(a.Below[x] | 1<<x) {
+	for _, point := range sets.Members(sets.UpTo(a, x)) {
 		pairs |= row << (point * b.N)
 	}
 	return pairs

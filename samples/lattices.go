@@ -187,6 +187,36 @@ func closed(sets []int, more int, together bool) []int {
 	return met
 }
 
+// Rows of both tables.
+func Rows(l api.Lattice) [][]int { return append(append([][]int{}, l.Meet...), l.Join...) }
+
+// RoomyLattice: the same lattice, its lists with spare room behind them; all that room, with marks that must stay, comes along.
+func RoomyLattice(l api.Lattice) (api.Lattice, [][]int) {
+	var rooms [][]int
+	lay := func(table [][]int) [][]int {
+		rows := make([][]int, 0, len(table)+3)
+		for _, row := range table {
+			list, room := Roomy(row...)
+			rows = append(rows, list)
+			rooms = append(rooms, room)
+		}
+		return rows
+	}
+	return api.Lattice{N: l.N, Meet: lay(l.Meet), Join: lay(l.Join)}, rooms
+}
+
+// HasRoom tells whether the room behind the tables of a roomy lattice is as it was laid.
+func HasRoom(l api.Lattice) bool {
+	for _, table := range [2][][]int{l.Meet, l.Join} {
+		for _, row := range table[l.N:cap(table)] {
+			if row != nil {
+				return false
+			}
+		}
+	}
+	return true
+}
+
 // WrongLattice is what is no lattice, and what is wrong with it.
 type WrongLattice struct {
 	Lattice api.Lattice

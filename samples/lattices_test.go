@@ -109,3 +109,21 @@ func TestWrongLattices(t *testing.T) {
 		}
 	}
 }
+
+func TestRoomyLattice(t *testing.T) {
+	want := StarLattice(5)
+	l, rooms := RoomyLattice(want)
+	if l.N != 5 || !slices.EqualFunc(Rows(l), Rows(want), slices.Equal) || len(rooms) != 10 || !HasRoom(l) || Shared(Rows(l)...) {
+		t.Errorf("RoomyLattice(%v) = %v with %v", want, l, rooms)
+	}
+	for i, row := range Rows(l) {
+		Spoil(row)
+		if rooms[i][14] != -5 {
+			t.Errorf("room %d is %v", i, rooms[i])
+		}
+	}
+	l.Join = append(l.Join, []int{1})[:5]
+	if HasRoom(l) {
+		t.Error("one row more is not seen")
+	}
+}

@@ -3,6 +3,7 @@ package samples
 
 import (
 	"math"
+	"slices"
 
 	"hasse/api"
 )
@@ -181,4 +182,21 @@ func Spoil(list []int) {
 	for i := range whole {
 		whole[i] = -5
 	}
+}
+
+// Shared tells whether two lists have memory in common, the room behind them too: one is written over, and another one is no longer as it was.
+func Shared(lists ...[]int) bool {
+	for i, list := range lists {
+		own := append([]int{}, list[:cap(list)]...)
+		for k, other := range lists {
+			before := append([]int{}, other[:cap(other)]...)
+			Spoil(list)
+			after := append([]int{}, other[:cap(other)]...)
+			copy(list[:cap(list)], own)
+			if k != i && !slices.Equal(before, after) {
+				return true
+			}
+		}
+	}
+	return false
 }

@@ -100,3 +100,23 @@ func TestRoomy(t *testing.T) {
 		t.Errorf("Roomy(3, 4) = %v, %v", list, room)
 	}
 }
+
+func TestShared(t *testing.T) {
+	whole := []int{1, 2, 3, 4, 5}
+	for _, c := range []struct {
+		lists [][]int
+		want  bool
+	}{
+		{nil, false},
+		{[][]int{whole}, false},
+		{[][]int{whole, nil, {}, {1, 2, 3}}, false},
+		{[][]int{whole, whole}, true},
+		{[][]int{{1}, whole[:1], whole[4:]}, true},
+		{[][]int{whole[:1:1], whole[1:2:2], whole[2:]}, false},
+		{[][]int{whole[3:], {7}, whole[:0]}, true},
+	} {
+		if Shared(c.lists...) != c.want || !slices.Equal(whole, []int{1, 2, 3, 4, 5}) {
+			t.Errorf("Shared(%v) = %v, and %v", c.lists, !c.want, whole)
+		}
+	}
+}

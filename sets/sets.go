@@ -25,6 +25,9 @@ func Has(set, point int) bool { return set>>point&1 == 1 }
 // Size is how many points a set has.
 func Size(set int) int { return bits.OnesCount(uint(set)) }
 
+// UpTo is the set of a point of an order and of all that is below it.
+func UpTo(o api.Order, point int) int { return o.Below[point] | 1<<point }
+
 // First is the least point of a set that has one.
 func First(set int) int { return bits.TrailingZeros(uint(set)) }
 

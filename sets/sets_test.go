@@ -4,6 +4,8 @@ import (
 	"math"
 	"slices"
 	"testing"
+
+	"hasse/api"
 )
 
 func TestCountsAndSets(t *testing.T) {
@@ -69,6 +71,15 @@ func TestEachOnce(t *testing.T) {
 	} {
 		if EachOnce(c.list, c.n) != c.want {
 			t.Errorf("EachOnce(%v, %d) = %v", c.list, c.n, !c.want)
+		}
+	}
+}
+
+func TestUpTo(t *testing.T) {
+	o := api.Order{N: 3, Below: []int{6, 0, 2}}
+	for point, want := range []int{7, 2, 6} {
+		if got := UpTo(o, point); got != want {
+			t.Errorf("UpTo(%v, %d) = %d, want %d", o, point, got, want)
 		}
 	}
 }
