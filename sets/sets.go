@@ -54,3 +54,16 @@ func EachOnce(list []int, n int) bool {
 	}
 	return true
 }
+
+// CheckMap tells what is wrong with a list that says of each of n points to which of m points it goes: ErrForm, if it has not a number for each; ErrRange, if one is no point.
+func CheckMap(list []int, n, m int) api.Errno {
+	if len(list) != n {
+		return api.ErrForm
+	}
+	for _, point := range list {
+		if !IsPoint(point, m) {
+			return api.ErrRange
+		}
+	}
+	return api.OK
+}

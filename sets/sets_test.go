@@ -83,3 +83,20 @@ func TestUpTo(t *testing.T) {
 		}
 	}
 }
+
+func TestCheckMap(t *testing.T) {
+	for _, c := range []struct {
+		list []int
+		n, m int
+		want api.Errno
+	}{
+		{nil, 0, 0, api.OK}, {[]int{}, 0, 3, api.OK}, {[]int{2, 2, 0}, 3, 3, api.OK}, {[]int{39}, 1, 40, api.OK}, {[]int{0, 0}, 2, 1, api.OK},
+		{nil, 1, 0, api.ErrForm}, {nil, 1, 1, api.ErrForm}, {[]int{0}, 0, 1, api.ErrForm}, {[]int{0, 1}, 3, 2, api.ErrForm}, {[]int{0, -1, 0}, 2, 2, api.ErrForm}, {[]int{9}, 2, 2, api.ErrForm},
+		{[]int{0}, 1, 0, api.ErrRange}, {[]int{0, 2}, 2, 2, api.ErrRange}, {[]int{0, 1}, 2, 1, api.ErrRange}, {[]int{-1, 0}, 2, 2, api.ErrRange},
+		{[]int{math.MaxInt}, 1, 40, api.ErrRange}, {[]int{math.MinInt}, 1, 40, api.ErrRange},
+	} {
+		if got := CheckMap(c.list, c.n, c.m); got != c.want {
+			t.Errorf("CheckMap(%v, %d, %d) = %d, want %d", c.list, c.n, c.m, got, c.want)
+		}
+	}
+}

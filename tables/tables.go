@@ -7,8 +7,11 @@ import (
 	"hasse/api"
 )
 
-// IsBelow tells whether an element of a lattice is below another one.
-func IsBelow(l api.Lattice, x, y int) bool { return x != y && l.Meet[x][y] == x }
+// IsUpTo tells whether an element of a lattice is another one or below it.
+func IsUpTo(l api.Lattice, x, y int) bool { return l.Meet[x][y] == x }
+
+// IsBelow tells whether it is below that one.
+func IsBelow(l api.Lattice, x, y int) bool { return x != y && IsUpTo(l, x, y) }
 
 // End is the element to which all of them come together in a table: of Meet the least one, of Join the greatest one.
 func End(table [][]int) int {

@@ -8,7 +8,7 @@ import (
 	"hasse/samples"
 )
 
-func TestIsBelowAndEnd(t *testing.T) {
+func TestIsUpToIsBelowAndEnd(t *testing.T) {
 	for _, l := range append(samples.SmallLattices(), samples.GreatLattices(60)...) {
 		least, greatest := End(l.Meet), End(l.Join)
 		for x := range l.N {
@@ -16,6 +16,9 @@ func TestIsBelowAndEnd(t *testing.T) {
 				t.Fatalf("%v: least %d, greatest %d", l, least, greatest)
 			}
 			for y := range l.N {
+				if got := IsUpTo(l, x, y); got != (l.Join[x][y] == y) {
+					t.Fatalf("IsUpTo(%v, %d, %d) = %v", l, x, y, got)
+				}
 				if got := IsBelow(l, x, y); got != (x != y && l.Join[x][y] == y) {
 					t.Fatalf("IsBelow(%v, %d, %d) = %v", l, x, y, got)
 				}
