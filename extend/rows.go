@@ -34,7 +34,7 @@ func (r rows) count() int { return r.endings[0] }
 
 // mayFollow tells whether a point can stand next behind a set.
 func (r rows) mayFollow(placed, point int) bool {
-	return !sets.Has(placed, point) && r.need[point]&^placed == 0
+	return !sets.Has(placed, point) && sets.HasAll(placed, r.need[point])
 }
 
 // goingOn is in how many ways a row goes on behind a set with a point next.

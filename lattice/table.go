@@ -78,7 +78,7 @@ func meets(o api.Order) ([][]int, bool) {
 // highest: the point of a set that all others of it are below.
 func highest(o api.Order, set int) (int, bool) {
 	for _, point := range sets.Members(set) {
-		if set&^sets.UpTo(o, point) == 0 {
+		if sets.HasAll(sets.UpTo(o, point), set) {
 			return point, true
 		}
 	}

@@ -22,6 +22,9 @@ func Within(set, n int) bool { return set >= 0 && set <= All(n) }
 // Has tells whether a point is in a set.
 func Has(set, point int) bool { return set>>point&1 == 1 }
 
+// HasAll tells whether all points of a part are in a set.
+func HasAll(set, part int) bool { return part&^set == 0 }
+
 // Size is how many points a set has.
 func Size(set int) int { return bits.OnesCount(uint(set)) }
 

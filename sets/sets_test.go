@@ -58,6 +58,20 @@ func TestMembers(t *testing.T) {
 	}
 }
 
+func TestHasAll(t *testing.T) {
+	for set := range 1 << 5 {
+		for part := range 1 << 5 {
+			want := true
+			for p := range 5 {
+				want = want && (part/(1<<p)%2 == 0 || set/(1<<p)%2 == 1)
+			}
+			if HasAll(set, part) != want {
+				t.Fatalf("HasAll(%d, %d) = %v", set, part, !want)
+			}
+		}
+	}
+}
+
 func TestEachOnce(t *testing.T) {
 	for _, c := range []struct {
 		list []int
