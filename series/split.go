@@ -35,7 +35,7 @@ func (l links) split(set int) (api.Term, bool) {
 	}
 	// A piece does not fall apart once more in the way in which it came about; so it is never of the kind of what it is next in.
 	for i, kind := range [2]int{api.TermBeside, api.TermOver} {
-		parts := pieces(set, l.held[i])
+		parts := sets.Pieces(set, l.held[i])
 		if len(parts) == 1 {
 			continue
 		}
@@ -61,21 +61,4 @@ func (l links) splitAll(kind int, parts []int) (api.Term, bool) {
 		kids = append(kids, kid)
 	}
 	return api.Term{Kind: kind, Kids: kids}, true
-}
-
-// pieces into which a set falls, if each point holds on to some others. The one with the least point comes first.
-func pieces(set int, held []int) []int {
-	var parts []int
-	for set != 0 {
-		part, grown := 0, 1<<sets.First(set)
-		for part != grown {
-			part = grown
-			for _, point := range sets.Members(part) {
-				grown |= held[point] & set
-			}
-		}
-		parts = append(parts, part)
-		set &^= part
-	}
-	return parts
 }

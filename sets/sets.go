@@ -10,6 +10,9 @@ import (
 // IsCount tells whether there may be n points.
 func IsCount(n int) bool { return n >= 0 && n <= api.MaxPoints }
 
+// IsGround tells whether sets of sets, and weights, may be of n points.
+func IsGround(n int) bool { return n >= 0 && n <= api.MaxGround }
+
 // IsPoint tells whether a number is one of n points.
 func IsPoint(point, n int) bool { return point >= 0 && point < n }
 
@@ -69,4 +72,39 @@ func CheckMap(list []int, n, m int) api.Errno {
 		}
 	}
 	return api.OK
+}
+
+// CheckRising tells what is wrong with a list of sets of n points: ErrMany, if there may not be n; ErrRange, if a set has something that is no point; ErrTwice, if they do not rise.
+func CheckRising(list []int, n int) api.Errno {
+	if !IsCount(n) {
+		return api.ErrMany
+	}
+	for _, set := range list {
+		if !Within(set, n) {
+			return api.ErrRange
+		}
+	}
+	for i := range list {
+		if i > 0 && list[i-1] >= list[i] {
+			return api.ErrTwice
+		}
+	}
+	return api.OK
+}
+
+// Pieces into which a set falls, if each point holds on to some others, which hold on to it likewise. The one with the least point comes first.
+func Pieces(set int, held []int) []int {
+	var parts []int
+	for set != 0 {
+		part, grown := 0, 1<<First(set)
+		for part != grown {
+			part = grown
+			for _, point := range Members(part) {
+				grown |= held[point] & set
+			}
+		}
+		parts = append(parts, part)
+		set &^= part
+	}
+	return parts
 }

@@ -14,6 +14,11 @@ func TestCountsAndSets(t *testing.T) {
 			t.Errorf("IsCount(%d) = %v", n, !want)
 		}
 	}
+	for n, want := range map[int]bool{-1: false, 0: true, 1: true, 6: true, 7: false, 10: false, math.MinInt: false, math.MaxInt: false} {
+		if IsGround(n) != want {
+			t.Errorf("IsGround(%d) = %v", n, !want)
+		}
+	}
 	for point, want := range map[int]bool{-1: false, 0: true, 9: true, 10: false, math.MinInt: false, math.MaxInt: false} {
 		if IsPoint(point, 10) != want {
 			t.Errorf("IsPoint(%d, 10) = %v", point, !want)
@@ -111,6 +116,39 @@ func TestCheckMap(t *testing.T) {
 	} {
 		if got := CheckMap(c.list, c.n, c.m); got != c.want {
 			t.Errorf("CheckMap(%v, %d, %d) = %d, want %d", c.list, c.n, c.m, got, c.want)
+		}
+	}
+}
+
+func TestCheckRising(t *testing.T) {
+	for _, c := range []struct {
+		list []int
+		n    int
+		want api.Errno
+	}{
+		{nil, 0, api.OK}, {[]int{0}, 0, api.OK}, {[]int{0, 1, 3}, 2, api.OK}, {[]int{2}, 2, api.OK}, {[]int{0, 1023}, 10, api.OK},
+		{nil, -1, api.ErrMany}, {nil, 11, api.ErrMany}, {[]int{5, -1}, 11, api.ErrMany}, {nil, math.MaxInt, api.ErrMany}, {nil, math.MinInt, api.ErrMany},
+		{[]int{1}, 0, api.ErrRange}, {[]int{0, 4}, 2, api.ErrRange}, {[]int{-1, 3}, 2, api.ErrRange}, {[]int{3, 3, 4}, 2, api.ErrRange}, {[]int{0, 1024}, 10, api.ErrRange},
+		{[]int{0, 0}, 0, api.ErrTwice}, {[]int{0, 3, 3}, 2, api.ErrTwice}, {[]int{2, 1}, 2, api.ErrTwice}, {[]int{0, 2, 1, 3}, 2, api.ErrTwice},
+	} {
+		if got := CheckRising(c.list, c.n); got != c.want {
+			t.Errorf("CheckRising(%v, %d) = %d, want %d", c.list, c.n, got, c.want)
+		}
+	}
+}
+
+func TestPieces(t *testing.T) {
+	// 0 and 2, 2 and 4, 1 and 3 hold on to one another.
+	held := []int{4, 8, 17, 2, 4, 0}
+	for _, c := range []struct {
+		set  int
+		want []int
+	}{
+		{0, nil}, {63, []int{21, 10, 32}}, {31, []int{21, 10}}, {62, []int{10, 20, 32}}, {17, []int{1, 16}}, {32, []int{32}}, {27, []int{1, 10, 16}},
+	} {
+		before := slices.Clone(held)
+		if got := Pieces(c.set, held); !slices.Equal(got, c.want) || !slices.Equal(before, held) {
+			t.Errorf("Pieces(%d) = %v, want %v", c.set, got, c.want)
 		}
 	}
 }
