@@ -13,46 +13,6 @@ import (
 // below tells an order by its sets.
 func below(sets ...int) api.Order { return samples.Below(sets...) }
 
-// lists of each of n points once, as lists are compared.
-func lists(n int) [][]int {
-	all := [][]int{{}}
-	for range n {
-		var longer [][]int
-		for _, list := range all {
-			for p := range n {
-				if !slices.Contains(list, p) {
-					longer = append(longer, append(slices.Clone(list), p))
-				}
-			}
-		}
-		all = longer
-	}
-	return all
-}
-
-// isRow by the words of the chapter, of a list that has each point once.
-func isRow(o api.Order, list []int) bool {
-	for i, later := range list {
-		for _, p := range list[:i] {
-			if samples.IsBelow(o, later, p) {
-				return false
-			}
-		}
-	}
-	return true
-}
-
-// rowsOf an order, found among all lists.
-func rowsOf(o api.Order) [][]int {
-	var rows [][]int
-	for _, list := range lists(o.N) {
-		if isRow(o, list) {
-			rows = append(rows, list)
-		}
-	}
-	return rows
-}
-
 // tried orders have few enough points for all their lists to be looked through: all small ones, and some of five and six points.
 func tried() []api.Order {
 	orders := samples.SmallOrders()
@@ -63,8 +23,6 @@ func tried() []api.Order {
 	}
 	return orders
 }
-
-func stands(row []int, a, b int) bool { return slices.Index(row, a) < slices.Index(row, b) }
 
 func TestF1Count(t *testing.T) {
 	for _, c := range []struct {
@@ -95,7 +53,7 @@ func TestF1Count(t *testing.T) {
 
 func TestF1AllRows(t *testing.T) {
 	for _, o := range tried() {
-		rows := rowsOf(o)
+		rows := samples.RowsOf(o)
 		if got, err := Count(o); err != api.OK || got != len(rows) {
 			t.Fatalf("Count(%v) = %d, error %d, want %d", o, got, err, len(rows))
 		}
@@ -139,40 +97,17 @@ func TestF1Nth(t *testing.T) {
 }
 
 func TestF1RankOfNoRow(t *testing.T) {
-	for _, c := range []struct {
-		o   api.Order
-		row []int
-	}{
-		{api.Order{}, []int{0}},
-		{below(0), nil},
-		{below(0), []int{1}},
-		{below(0), []int{-1}},
-		{below(0), []int{0, 0}},
-		{below(0), []int{math.MinInt}},
-		{below(0), []int{math.MaxInt}},
-		{below(0), []int{64}},
-		{below(0, 0), []int{0, 0}},
-		{below(0, 0), []int{0}},
-		{below(0, 0), []int{0, 1, 2}},
-		{below(0, 0), []int{0, 1, 0}},
-		{below(0, 0), []int{0, 2}},
-		{below(0, 1), []int{1, 0}},
-		{below(0, 1, 3), []int{0, 2, 1}},
-		{below(0, 0, 3, 2), []int{0, 3, 1, 2}},
-		{samples.Apart(), []int{0, 1, 2, 3, 4, 5, 6, 7, 8, 10}},
-		{samples.Apart(), []int{0, 1, 2, 3, 4, 5, 6, 7, 8, 8}},
-		{samples.Apart(), make([]int, 1000)},
-	} {
-		if got, err := Rank(c.o, c.row); err != api.ErrForm || got != 0 {
-			t.Errorf("Rank(%v, %v) = %d, error %d, want error %d", c.o, c.row, got, err, api.ErrForm)
+	for _, c := range samples.NoRows() {
+		if got, err := Rank(c.Order, c.List); err != api.ErrForm || got != 0 {
+			t.Errorf("Rank(%v, %v) = %d, error %d, want error %d", c.Order, c.List, got, err, api.ErrForm)
 		}
 	}
 	for _, o := range tried() {
 		if o.N > 5 {
 			continue
 		}
-		for _, list := range lists(o.N) {
-			if _, err := Rank(o, list); (err == api.OK) != isRow(o, list) || err != api.OK && err != api.ErrForm {
+		for _, list := range samples.Lists(o.N) {
+			if _, err := Rank(o, list); (err == api.OK) != samples.IsRow(o, list) || err != api.OK && err != api.ErrForm {
 				t.Fatalf("Rank(%v, %v): error %d", o, list, err)
 			}
 		}
@@ -223,15 +158,15 @@ func counted(rows [][]int, ask func([]int) bool) int {
 
 func TestF2ByAllRows(t *testing.T) {
 	for _, o := range tried() {
-		rows := rowsOf(o)
+		rows := samples.RowsOf(o)
 		for a := range o.N {
 			for b := range o.N {
-				want := counted(rows, func(row []int) bool { return stands(row, a, b) })
+				want := counted(rows, func(row []int) bool { return samples.Stands(row, a, b) })
 				if got, err := Ahead(o, a, b); err != api.OK || got != want {
 					t.Fatalf("Ahead(%v, %d, %d) = %d, error %d, want %d", o, a, b, got, err, want)
 				}
 				for c := range o.N {
-					want := counted(rows, func(row []int) bool { return stands(row, a, b) && stands(row, a, c) })
+					want := counted(rows, func(row []int) bool { return samples.Stands(row, a, b) && samples.Stands(row, a, c) })
 					if got, err := Both(o, a, b, c); err != api.OK || got != want {
 						t.Fatalf("Both(%v, %d, %d, %d) = %d, error %d, want %d", o, a, b, c, got, err, want)
 					}
@@ -273,7 +208,7 @@ func TestF3RowsAndNumbers(t *testing.T) {
 					t.Fatalf("Nth(%v, %d) = %v has not each point once", o, k, row)
 				}
 			}
-			if err != api.OK || len(row) != o.N || !isRow(o, row) || slices.Compare(last, row) >= 0 {
+			if err != api.OK || len(row) != o.N || !samples.IsRow(o, row) || slices.Compare(last, row) >= 0 {
 				t.Fatalf("Nth(%v, %d) = %v, error %d, behind %v", o, k, row, err, last)
 			}
 			if got, err := Rank(o, row); err != api.OK || got != k {

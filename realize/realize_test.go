@@ -52,28 +52,12 @@ func tried() []api.Order {
 	return orders
 }
 
-// lists of each of n points once, by putting the last one at each place of the lists of the others.
-func lists(n int) [][]int {
-	if n == 0 {
-		return [][]int{{}}
-	}
-	var all [][]int
-	for _, list := range lists(n - 1) {
-		for i := range n {
-			all = append(all, slices.Insert(slices.Clone(list), i, n-1))
-		}
-	}
-	return all
-}
-
-func stands(row []int, a, b int) bool { return slices.Index(row, a) < slices.Index(row, b) }
-
 // agreed: the order by the words of G1.
 func agreed(n int, rows [][]int) api.Order {
 	sets := make([]int, n)
 	for a := range n {
 		for b := range n {
-			if a != b && !slices.ContainsFunc(rows, func(row []int) bool { return !stands(row, a, b) }) {
+			if a != b && !slices.ContainsFunc(rows, func(row []int) bool { return !samples.Stands(row, a, b) }) {
 				sets[b] |= 1 << a
 			}
 		}
@@ -112,7 +96,7 @@ func TestG1Of(t *testing.T) {
 }
 
 func TestG1ByItsWords(t *testing.T) {
-	all := lists(4)
+	all := samples.Lists(4)
 	for i, first := range all {
 		for _, second := range all {
 			for _, third := range all[i%6*4:][:4] {
@@ -221,8 +205,8 @@ func told(n int, so func(a, b int) bool) uint64 {
 // toldByLists: what each list of n points tells of who stands ahead of whom.
 func toldByLists(n int) []uint64 {
 	var all []uint64
-	for _, list := range lists(n) {
-		all = append(all, told(n, func(a, b int) bool { return stands(list, a, b) }))
+	for _, list := range samples.Lists(n) {
+		all = append(all, told(n, func(a, b int) bool { return samples.Stands(list, a, b) }))
 	}
 	return all
 }

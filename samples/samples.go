@@ -82,8 +82,10 @@ func NaturalOrders(n int) []api.Order {
 }
 
 // Renumbered: the same order, its points numbered any way.
-func Renumbered(o api.Order, draw *Draw) api.Order {
-	names := shuffled(o.N, draw)
+func Renumbered(o api.Order, draw *Draw) api.Order { return Named(o, shuffled(o.N, draw)) }
+
+// Named: the same order, its points numbered by a list of their names.
+func Named(o api.Order, names []int) api.Order {
 	sets := make([]int, o.N)
 	for upper, name := range names {
 		for lower, other := range names {
