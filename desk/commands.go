@@ -16,9 +16,10 @@ type command struct {
 	run   func(s shelf, words []string) (string, api.Errno)
 }
 
-// commands of the desk, made when the program starts. No call changes them, so that none can tell of another one.
+// commands of the desk, made when the program starts. They stand beside makeCommands: Run reads them, but its answers hang on nothing that is kept.
 var commands = makeCommands()
 
+// makeCommands is asked anew by each line, so that what a line answers is told by this function alone.
 func makeCommands() []command {
 	return []command{
 		{word: "put", names: 1, texts: 1, gives: true, run: shelf.put},
@@ -52,7 +53,7 @@ func parse(line string) (command, []string, bool) {
 
 // find the command that a word is.
 func find(word string) (command, bool) {
-	for _, c := range commands {
+	for _, c := range makeCommands() {
 		if c.word == word {
 			return c, true
 		}

@@ -215,16 +215,64 @@ func onlyTheFirstNameMayChange(t *testing.T, before, after api.Desk, line string
 
 func TestTheTableHasEachCommandOnce(t *testing.T) {
 	want := []string{"alike", "beside", "drop", "dual", "long", "names", "over", "put", "rows", "show", "times", "wide"}
-	var got []string
-	for _, c := range commands {
-		got = append(got, c.word)
-		if 1+c.names+c.texts >= maxWords {
-			t.Errorf("%s has more words than are looked at", c.word)
+	for _, table := range [][]command{commands, makeCommands()} {
+		var got []string
+		for _, c := range table {
+			got = append(got, c.word)
+			if 1+c.names+c.texts >= maxWords {
+				t.Errorf("%s has more words than are looked at", c.word)
+			}
+		}
+		slices.Sort(got)
+		if !slices.Equal(got, want) {
+			t.Errorf("the commands are %q", got)
 		}
 	}
-	slices.Sort(got)
-	if !slices.Equal(got, want) {
-		t.Errorf("the commands are %q", got)
+}
+
+// isSameCommand: functions cannot be held against each other, so both are run.
+func isSameCommand(a, b command) bool {
+	words := []string{"x", "c", "d"}
+	if a.texts > 0 {
+		words = []string{"x", "3:,0<1"}
+	} else if !a.gives {
+		words = []string{"e", "f"}
+	}
+	one, other := takeUp(full()), takeUp(full())
+	answer, err := a.run(one, words)
+	again, fault := b.run(other, words)
+	return a.word == b.word && a.names == b.names && a.texts == b.texts && a.gives == b.gives && answer == again && err == api.OK && fault == api.OK && isSame(one.layDown(), other.layDown())
+}
+
+func TestTheTableIsWhatTheFunctionMakes(t *testing.T) {
+	if !slices.EqualFunc(commands, makeCommands(), isSameCommand) {
+		t.Error("the table of start-up is not what makeCommands makes")
+	}
+}
+
+func TestP3AnswersHangOnNoTable(t *testing.T) {
+	d, _ := run(t, full(), "drop h")
+	lines := []string{"put x 3:,0<1", "drop a", "dual x e", "beside x c d", "over x c d", "times x c d", "show e", "rows e", "wide e", "long e", "alike c d", "names", "", "hello", "show", "show x", "put x 11:"}
+	type told struct {
+		d      api.Desk
+		answer string
+		err    api.Errno
+	}
+	ask := func() (all []told) {
+		for _, line := range lines {
+			next, answer, err := Run(d, line)
+			all = append(all, told{next, answer, err})
+		}
+		return all
+	}
+	want := ask()
+	kept := commands
+	defer func() { commands = kept }()
+	commands = nil
+	for i, got := range ask() {
+		if got.answer != want[i].answer || got.err != want[i].err || !isSame(got.d, want[i].d) {
+			t.Errorf("%q: %v without a table, %v with it", lines[i], got, want[i])
+		}
 	}
 }
 
